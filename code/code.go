@@ -6,14 +6,15 @@ import "deskmates/api"
 // toWord cuts by a mask, not by %, so that a number below 0 comes out from 0 on, too.
 func toWord(n int) int { return n & api.MaxWord }
 
-func isWord(n int) bool { return n == toWord(n) }
+// IsWord is whether a number is a word.
+func IsWord(n int) bool { return n == toWord(n) }
 
 func isRegister(r int) bool { return 0 <= r && r < api.Regs }
 
 // Good is whether an instruction is one.
 func Good(i api.Instr) bool {
 	return api.Set <= i.Op && i.Op <= api.Halt &&
-		isRegister(i.A) && isRegister(i.B) && isRegister(i.C) && isWord(i.N)
+		isRegister(i.A) && isRegister(i.B) && isRegister(i.C) && IsWord(i.N)
 }
 
 // GoodPlain is whether a core's own state is one: it is, if making it good changes nothing of it.
@@ -70,13 +71,13 @@ func Alone(p api.Plain, i api.Instr) (api.Plain, api.Errno) {
 	b, c := Get(p, i.B), Get(p, i.C)
 	switch i.Op {
 	case api.Set:
-		return next(Put(p, i.A, i.N)), api.OK
+		return Next(Put(p, i.A, i.N)), api.OK
 	case api.Add:
-		return next(Put(p, i.A, b+c)), api.OK
+		return Next(Put(p, i.A, b+c)), api.OK
 	case api.Sub:
-		return next(Put(p, i.A, b-c)), api.OK
+		return Next(Put(p, i.A, b-c)), api.OK
 	case api.Less:
-		return next(Put(p, i.A, less(b, c))), api.OK
+		return Next(Put(p, i.A, less(b, c))), api.OK
 	case api.Jump:
 		return jump(p, i), api.OK
 	case api.Halt:
@@ -86,8 +87,8 @@ func Alone(p api.Plain, i api.Instr) (api.Plain, api.Errno) {
 	return p, api.ErrKind
 }
 
-// next is a state that goes on behind its instruction; the last word is followed by the first.
-func next(p api.Plain) api.Plain {
+// Next is a state that goes on behind its instruction; the last word is followed by the first.
+func Next(p api.Plain) api.Plain {
 	p.At = toWord(p.At + 1)
 	return p
 }
@@ -101,7 +102,7 @@ func less(b, c int) int {
 
 func jump(p api.Plain, i api.Instr) api.Plain {
 	if Get(p, i.A) != 0 {
-		return next(p)
+		return Next(p)
 	}
 	p.At = i.N
 	return p

@@ -33,6 +33,26 @@ func sample() api.Plain {
 	return api.Plain{Regs: [8]int{0, 11, 22, 33, 44, 55, 66, api.MaxWord}, At: 3}
 }
 
+func TestIsWord(t *testing.T) {
+	for _, n := range someNumbers {
+		if code.IsWord(n) != isWord(n) {
+			t.Errorf("%d: %v", n, code.IsWord(n))
+		}
+	}
+}
+
+func TestNext(t *testing.T) {
+	for _, n := range someNumbers {
+		p := sample()
+		p.At, p.Off = n, true
+		want := p
+		want.At = rest(rest(n) + 1)
+		if got := code.Next(p); got != want {
+			t.Errorf("at %d: %+v", n, got)
+		}
+	}
+}
+
 // P1.1
 
 func TestGoodOps(t *testing.T) {
